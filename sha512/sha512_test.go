@@ -12,7 +12,7 @@ import (
 	"spinney/api"
 )
 
-// TestFirstCalls stands first, so that the values computed once are asked for by several calls of both kinds at a time.
+// TestFirstCalls stands first, so that the values computed once are asked for by several calls at a time, beside digests.
 func TestFirstCalls(t *testing.T) {
 	right := make(chan bool)
 	for n := range 8 {
@@ -248,6 +248,27 @@ func TestWordsAgain(t *testing.T) {
 	}
 	if Sum256(nil) != std.Sum512_256(nil) {
 		t.Error("a digest hangs on what was answered")
+	}
+}
+
+// P2.1: the words are computed once, at the first call; digests hang on no value that is kept.
+func TestComputedOnce(t *testing.T) {
+	was := Words()
+	defer func() { shorter = was }()
+	for i := range shorter {
+		shorter[i]++
+	}
+	if Words() != shorter {
+		t.Error("the words are computed again")
+	}
+	for _, n := range lengths() {
+		if !fits(sample(n)) {
+			t.Errorf("%d bytes: a digest hangs on what is kept", n)
+		}
+	}
+	shorter = was
+	if Words() != made() {
+		t.Error("the words that are kept are others than those worked out")
 	}
 }
 
